@@ -1,0 +1,90 @@
+// Package grader: a small Forth, its machine, and marks for what students hand in: see DOC.md.
+package grader
+
+// Errno is what a call answers: OK or the reason for a refusal.
+type Errno int
+
+const (
+	OK        Errno = 0
+	ErrLong   Errno = 1  // above a limit
+	ErrWord   Errno = 2  // a word without a meaning
+	ErrNest   Errno = 3  // a word that may not stand there
+	ErrName   Errno = 4  // no name
+	ErrCode   Errno = 5  // no instruction
+	ErrFuel   Errno = 6  // the steps are spent
+	ErrUnder  Errno = 7  // too few numbers on the stack
+	ErrOver   Errno = 8  // too many numbers on the stack
+	ErrDeep   Errno = 9  // too many calls
+	ErrDenied Errno = 10 // the right is missing
+	ErrFull   Errno = 11 // the output is full
+	ErrZero   Errno = 12 // a division by 0
+	ErrFence  Errno = 13 // a place that is fenced off
+)
+
+const (
+	maxSource = 400
+	maxImage  = 256
+	maxFuel   = 10000
+	maxStack  = 16
+	maxCalls  = 12
+	maxOut    = 64
+)
+
+// Result is what a run comes to.
+type Result struct {
+	Out   string
+	Image string
+	Mark  int
+	Used  int
+	Err   Errno
+}
+
+// Test is an input, and bytes that the student's program must not see.
+type Test struct{ In, Hidden string }
+
+// Grader marks programs. Make it by Open.
+type Grader struct {
+	marks string
+}
+
+// Check tells whether a text is a program (P3).
+func Check(src string) (Errno, int) {
+	_, e, place := readProgram(src)
+	return e, place
+}
+
+// Run runs a program (P4 to P7).
+func Run(src string, in string, image string, kernel int, secret int, rights int, fuel int) Result {
+	steps, e, _ := readProgram(src)
+	if e != OK {
+		return Result{Err: e}
+	}
+	if len(image) > maxImage || fuel > maxFuel {
+		return Result{Err: ErrLong}
+	}
+	m := newMachine(in, image, kernel, secret, rights, fuel)
+	e = m.runSteps(steps)
+	return m.result(e)
+}
+
+// Verify tells whether code is whole (P8). It is not built yet.
+func Verify(code string) (Errno, int) { return OK, 0 }
+
+// Exec runs code (P9). It is not built yet.
+func Exec(code string, in string, image string, kernel int, secret int, rights int, fuel int) Result {
+	return Result{}
+}
+
+// Compile turns a program into code (P10). It is not built yet.
+func Compile(src string) (string, Errno, int) { return "", OK, 0 }
+
+// Open makes a grader (P11). It is not built yet: it answers a Grader, not nil, so that no call on it panics.
+func Open(checker string, tests []Test, rights int, fuel int) (*Grader, Errno, int) {
+	return &Grader{}, OK, 0
+}
+
+// Submit runs a program on every test and answers the transcript (P12, P14). It is not built yet.
+func (g *Grader) Submit(src string) (string, Errno, int) { return "", OK, 0 }
+
+// Marks answers the marks of the last program that was run (P13). It is not built yet.
+func (g *Grader) Marks() string { return g.marks }
