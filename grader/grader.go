@@ -23,6 +23,7 @@ const (
 
 const (
 	maxSource = 400
+	maxCode   = 1024
 	maxImage  = 256
 	maxFuel   = 10000
 	maxStack  = 16
@@ -67,16 +68,33 @@ func Run(src string, in string, image string, kernel int, secret int, rights int
 	return m.result(e)
 }
 
-// Verify tells whether code is whole (P8). It is not built yet.
-func Verify(code string) (Errno, int) { return OK, 0 }
-
-// Exec runs code (P9). It is not built yet.
-func Exec(code string, in string, image string, kernel int, secret int, rights int, fuel int) Result {
-	return Result{}
+// Verify tells whether code is whole, and leads nowhere but to its own instructions (P8).
+func Verify(code string) (Errno, int) {
+	if len(code) > maxCode {
+		return ErrLong, 0
+	}
+	return verifyCode(code)
 }
 
-// Compile turns a program into code (P10). It is not built yet.
-func Compile(src string) (string, Errno, int) { return "", OK, 0 }
+// Exec runs code, be it whole or not (P9).
+func Exec(code string, in string, image string, kernel int, secret int, rights int, fuel int) Result {
+	if len(code) > maxCode || len(image) > maxImage || fuel > maxFuel {
+		return Result{Err: ErrLong}
+	}
+	m := newMachine(in, image, kernel, secret, rights, fuel)
+	e := m.runCode(code)
+	return m.result(e)
+}
+
+// Compile turns a program into code (P10). The code is never above maxCode: a text of
+// maxSource bytes has 200 words at most, and each comes to three bytes at most.
+func Compile(src string) (string, Errno, int) {
+	steps, e, place := readProgram(src)
+	if e != OK {
+		return "", e, place
+	}
+	return writeCode(steps), OK, 0
+}
 
 // Open makes a grader (P11). It is not built yet: it answers a Grader, not nil, so that no call on it panics.
 func Open(checker string, tests []Test, rights int, fuel int) (*Grader, Errno, int) {

@@ -54,8 +54,11 @@ func (m *machine) result(e Errno) Result {
 // runSteps goes through a program. It ends: opPass leads forward only, and every other step uses fuel.
 func (m *machine) runSteps(steps []step) Errno {
 	at := 0
-	for at >= 0 && at < len(steps) {
-		s := steps[at]
+	for {
+		s := stepAt(steps, at)
+		if s.op == opHalt {
+			return OK
+		}
 		if s.op == opPass {
 			at = s.arg
 			continue
@@ -66,7 +69,26 @@ func (m *machine) runSteps(steps []step) Errno {
 		}
 		at = m.makeStep(s.op, s.arg, at+1)
 	}
-	return OK
+}
+
+// runCode goes through code, which need not be whole: what the run does not
+// come to does not matter. It ends: every instruction but the halt uses fuel.
+func (m *machine) runCode(code string) Errno {
+	at := 0
+	for {
+		s, size := instructionAt(code, at)
+		if size == 0 {
+			return ErrCode
+		}
+		if s.op == opHalt {
+			return OK
+		}
+		e := m.fault(s.op)
+		if e != OK {
+			return e
+		}
+		at = m.makeStep(s.op, s.arg, at+size)
+	}
 }
 
 // fault answers the first error of P6 that a step meets. It changes nothing, as a step with an error is not made.

@@ -194,6 +194,12 @@ func oracleRun(src, in, image string, kernel, secret, rights, fuel int) grader.R
 	if len(image) > 256 || fuel > 10000 {
 		return grader.Result{Err: grader.ErrLong}
 	}
+	w := newWalker(in, image, kernel, secret, rights, fuel)
+	w.walk(nodes)
+	return w.r
+}
+
+func newWalker(in, image string, kernel, secret, rights, fuel int) *walker {
 	parts := ""
 	for range len(image) {
 		switch {
@@ -207,9 +213,7 @@ func oracleRun(src, in, image string, kernel, secret, rights, fuel int) grader.R
 			parts += "u"
 		}
 	}
-	w := &walker{r: grader.Result{Image: image}, in: in, parts: parts, rights: rights, fuel: fuel}
-	w.walk(nodes)
-	return w.r
+	return &walker{r: grader.Result{Image: image}, in: in, parts: parts, rights: rights, fuel: fuel}
 }
 
 // step makes a step with these needs; it answers false if the run has ended.

@@ -127,6 +127,15 @@ func TestAnyBytes(t *testing.T) {
 		if e != grader.OK && got != (grader.Result{Err: e}) {
 			t.Fatalf("P4: Run(%q) = %+v, want the error %d of Check alone", src, got, e)
 		}
+		e, at = grader.Verify(src)
+		if e != grader.OK && e != grader.ErrCode || at < 0 || at > len(src) || (e == grader.OK && at != 0) {
+			t.Fatalf("P1: Verify(%q) = %d, %d", src, e, at)
+		}
+		grader.Exec(src, "in", strings.Repeat("i", r.Intn(260)), n[0], n[1], n[2], n[3])
+		code, e, at := grader.Compile(src)
+		if (e == grader.OK) != (code != "") || at < 0 || at > len(src) || (e == grader.OK && at != 0) {
+			t.Fatalf("P1: Compile(%q) = %q, %d, %d", src, code, e, at)
+		}
 	}
 }
 
@@ -155,6 +164,7 @@ func TestEveryCallAnswers(t *testing.T) {
 func TestCallsShareNothing(t *testing.T) {
 	const src = ": a 65 emit key 3 ! 3 @ mark ; a a"
 	want := grader.Result{Out: "AA", Image: "kssy", Mark: 'y', Used: 20}
+	first, _, _ := grader.Compile(src)
 	for _, between := range []string{": a 1 ;", "a", ": dup 1 ; dup", "1 2 3 66 emit key drop 9 mark 90 3 !", "if", ": b", ":", ": c begin 0 until ; c", strings.Repeat("1 ", 17)} {
 		if e, at := grader.Check(src); e != grader.OK || at != 0 {
 			t.Errorf("P2: Check = %d, %d", e, at)
@@ -162,10 +172,23 @@ func TestCallsShareNothing(t *testing.T) {
 		if got := grader.Run(src, "xyz", "kssu", 1, 2, allRights, 99); got != want {
 			t.Errorf("P2: Run = %+v, want %+v", got, want)
 		}
+		code, e, at := grader.Compile(src)
+		if code != first || e != grader.OK || at != 0 {
+			t.Errorf("P2: Compile = %q, %d, %d, but at first %q", code, e, at, first)
+		}
+		if e, at := grader.Verify(code); e != grader.OK || at != 0 {
+			t.Errorf("P2: Verify = %d, %d", e, at)
+		}
+		if got := grader.Exec(code, "xyz", "kssu", 1, 2, allRights, 99); got != want {
+			t.Errorf("P2: Exec = %+v, want %+v", got, want)
+		}
 		if e, at := grader.Check("1 a"); e != grader.ErrWord || at != 2 {
 			t.Errorf("P2: a name outlives its program: %d, %d", e, at)
 		}
 		grader.Check(between)
 		grader.Run(between, "in", "kssu", 0, 0, allRights, 99)
+		grader.Verify(between)
+		grader.Compile(between)
+		grader.Exec("\x01\x00\x41\x20\x04\x00\x00"+between, "in", "kssu", 0, 0, allRights, 99)
 	}
 }

@@ -30,7 +30,7 @@ type reader struct {
 	nameIsDue bool
 }
 
-// readProgram answers the steps of a program, or the error and the place of Check.
+// readProgram answers the steps of a program, the last of them a halt, or the error and the place of Check.
 func readProgram(src string) ([]step, Errno, int) {
 	if len(src) > maxSource {
 		return nil, ErrLong, 0
@@ -48,6 +48,7 @@ func readProgram(src string) ([]step, Errno, int) {
 	if e != OK {
 		return nil, e, len(src)
 	}
+	r.add(opHalt, 0)
 	return r.steps, OK, 0
 }
 

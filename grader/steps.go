@@ -2,7 +2,8 @@ package grader
 
 // What a step does. But for opPass, these are the numbers of the instructions in code.
 const (
-	opPass     = -1 // passes over a definition: the one that costs nothing, and no instruction
+	opPass     = -1 // passes over a definition: it costs nothing, and is no instruction
+	opHalt     = 0
 	opPush     = 1
 	opJump     = 2
 	opJumpZero = 3
@@ -40,6 +41,14 @@ var listed = [19]string{
 type step struct {
 	op  int
 	arg int
+}
+
+// stepAt answers a step of a program, a halt if there is none.
+func stepAt(steps []step, at int) step {
+	if at < 0 || at >= len(steps) {
+		return step{op: opHalt}
+	}
+	return steps[at]
 }
 
 // listedOp answers the number of a word of the list, and whether it is one.
@@ -80,6 +89,11 @@ func gives(op int) int {
 		return 1
 	}
 	return 0
+}
+
+// leads tells whether what belongs to a step is a place at which the run can go on.
+func leads(op int) bool {
+	return op == opJump || op == opJumpZero || op == opCall
 }
 
 // isOperator tells whether a step makes one number out of two.
