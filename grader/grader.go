@@ -29,6 +29,8 @@ const (
 	maxStack  = 16
 	maxCalls  = 12
 	maxOut    = 64
+	maxTests  = 6
+	maxHidden = 32
 )
 
 // Result is what a run comes to.
@@ -43,9 +45,15 @@ type Result struct {
 // Test is an input, and bytes that the student's program must not see.
 type Test struct{ In, Hidden string }
 
-// Grader marks programs. Make it by Open.
+// Grader marks programs. Make it by Open; one that Open did not make, nil too, has no tests.
 type Grader struct {
-	marks string
+	checker string
+	tests   []Test
+	rights  int
+	fuel    int
+	refusal Errno // the error of Open, which every Submit answers too
+	place   int   // and its place
+	marks   string
 }
 
 // Check tells whether a text is a program (P3).
@@ -96,13 +104,38 @@ func Compile(src string) (string, Errno, int) {
 	return writeCode(steps), OK, 0
 }
 
-// Open makes a grader (P11). It is not built yet: it answers a Grader, not nil, so that no call on it panics.
+// Open makes a grader (P11).
 func Open(checker string, tests []Test, rights int, fuel int) (*Grader, Errno, int) {
-	return &Grader{}, OK, 0
+	e, place := checkOpen(checker, tests, fuel)
+	if e != OK {
+		return &Grader{refusal: e, place: place}, e, place
+	}
+	// The list is the caller's to change later, so the Grader keeps a copy.
+	kept := append([]Test{}, tests...)
+	return &Grader{checker: checker, tests: kept, rights: rights, fuel: fuel}, OK, 0
 }
 
-// Submit runs a program on every test and answers the transcript (P12, P14). It is not built yet.
-func (g *Grader) Submit(src string) (string, Errno, int) { return "", OK, 0 }
+// Submit runs a program on every test and answers the transcript (P12, P14).
+func (g *Grader) Submit(src string) (string, Errno, int) {
+	if g == nil {
+		g = &Grader{}
+	}
+	if g.refusal != OK {
+		return "", g.refusal, g.place
+	}
+	e, place := Check(src)
+	if e != OK {
+		return "", e, place
+	}
+	transcript, marks := g.runTests(src)
+	g.marks = marks
+	return transcript, OK, 0
+}
 
-// Marks answers the marks of the last program that was run (P13). It is not built yet.
-func (g *Grader) Marks() string { return g.marks }
+// Marks answers the marks of the last program that was run (P13).
+func (g *Grader) Marks() string {
+	if g == nil {
+		return ""
+	}
+	return g.marks
+}

@@ -5,6 +5,8 @@ const (
 	rightKey  = 2
 	rightLook = 4
 	rightMark = 8
+
+	everyRight = rightEmit | rightKey | rightLook | rightMark
 )
 
 // machine is the state of a run.

@@ -136,10 +136,19 @@ func TestAnyBytes(t *testing.T) {
 		if (e == grader.OK) != (code != "") || at < 0 || at > len(src) || (e == grader.OK && at != 0) {
 			t.Fatalf("P1: Compile(%q) = %q, %d, %d", src, code, e, at)
 		}
+		tests := []grader.Test{{In: src, Hidden: strings.Repeat("h", r.Intn(34))}, {In: "in"}}
+		g, opened, at := grader.Open(anyText(r), tests, n[2], n[3])
+		if g == nil || at < 0 || (opened == grader.OK && at != 0) {
+			t.Fatalf("P1: Open = %v, %d, %d", g, opened, at)
+		}
+		transcript, e, at := g.Submit(src)
+		if (e == grader.OK) != (transcript != "") || at < 0 || (e == grader.OK && at != 0) || (e == grader.OK) != (g.Marks() != "") {
+			t.Fatalf("P1: Submit(%q) = %q, %d, %d and Marks %q", src, transcript, e, at, g.Marks())
+		}
 	}
 }
 
-// P1: the calls answer, those that are not built yet too.
+// P1: every call answers, at the ends of the numbers and at texts and lists above the limits.
 func TestEveryCallAnswers(t *testing.T) {
 	for _, text := range []string{"", "1 2 +", "\x00", "\xff\xff", strings.Repeat("x", 2000)} {
 		for _, n := range []int{-1 << 63, -1, 0, 15, 10000, 1<<63 - 1} {
